@@ -474,14 +474,20 @@ func roomyBlock(b impl.Block) (impl.Block, []impl.Cell) {
 	return impl.Block{Size: b.Size, Cells: room[2 : 2+n]}, room
 }
 
+// wantUntouched checks that the calls change neither the cells of b nor what lies beside them.
+func wantUntouched(t *testing.T, b impl.Block, call func(b impl.Block)) {
+	t.Helper()
+	d, room := roomyBlock(b)
+	old := slices.Clone(room)
+	call(d)
+	if !slices.Equal(room, old) {
+		t.Errorf("the cells %v or their neighbours were changed: %v", old, room)
+	}
+}
+
 func TestBlockArgumentsStay(t *testing.T) {
 	for _, b := range append(validBlocks(), invalidBlocks()...) {
-		d, room := roomyBlock(b)
-		old := slices.Clone(room)
-		callAll(d)
-		if !slices.Equal(room, old) {
-			t.Errorf("the cells %v or their neighbours were changed: %v", old, room)
-		}
+		wantUntouched(t, b, callAll)
 	}
 }
 

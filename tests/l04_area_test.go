@@ -433,12 +433,7 @@ func callAreas(b impl.Block) {
 
 func TestAreaArgumentsStay(t *testing.T) {
 	for _, b := range append(areaBlocks(), invalidBlocks()...) {
-		d, room := roomyBlock(b)
-		old := slices.Clone(room)
-		callAreas(d)
-		if !slices.Equal(room, old) {
-			t.Errorf("the cells %v or their neighbours were changed: %v", old, room)
-		}
+		wantUntouched(t, b, callAreas)
 	}
 }
 

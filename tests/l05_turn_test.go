@@ -447,38 +447,32 @@ func movesOf(b impl.Block) []impl.Block {
 
 func TestMovedArgumentsStay(t *testing.T) {
 	for _, b := range append(turnBlocks(), invalidBlocks()...) {
-		d, room := roomyBlock(b)
-		old := slices.Clone(room)
-		movesOf(d)
+		wantUntouched(t, b, func(d impl.Block) { movesOf(d) })
+	}
+}
+
+// wantNewBlocks checks that the results share no memory with the argument, and that none of them is kept for the next call.
+func wantNewBlocks(t *testing.T, b impl.Block, results func(b impl.Block) []impl.Block) {
+	t.Helper()
+	d, room := roomyBlock(b)
+	old := slices.Clone(room)
+	want := results(copyOf(b))
+	for i, got := range results(d) {
+		wipe(got.Cells)
 		if !slices.Equal(room, old) {
-			t.Errorf("the cells %v or their neighbours were changed: %v", old, room)
+			t.Fatalf("result %d of %v shares the cells of the argument", i, b)
 		}
+		wantBlock(t, "result "+impl.FormatInt(i)+" again", results(d)[i], want[i])
+	}
+	got := results(d)
+	wipe(d.Cells)
+	for i := range got {
+		wantBlock(t, "result "+impl.FormatInt(i)+" after a change of the argument", got[i], want[i])
 	}
 }
 
 func TestMovedBlocksShareNoMemory(t *testing.T) {
 	for _, b := range append(turnBlocks(), invalidBlocks()...) {
-		d, room := roomyBlock(b)
-		old := slices.Clone(room)
-		want := movesOf(copyOf(b))
-		for i, got := range movesOf(d) {
-			wipe(got.Cells)
-			if !slices.Equal(room, old) {
-				t.Fatalf("result %d of the moves of %v shares the cells of the argument", i, b)
-			}
-			// Nor is a result kept for the next call.
-			wantBlock(t, "move "+impl.FormatInt(i)+" again", movesOf(d)[i], want[i])
-		}
-	}
-}
-
-func TestChangedArgumentsDoNotChangeResults(t *testing.T) {
-	for _, b := range append(roundBlocks(), cornerBlock(), mixedBlock(1, 9), mixedBlock(3, 8), mixedBlock(4, 7)) {
-		d := copyOf(b)
-		got, want := movesOf(d), movesOf(copyOf(b))
-		wipe(d.Cells)
-		for i := range got {
-			wantBlock(t, "move "+impl.FormatInt(i)+" after a change of the argument", got[i], want[i])
-		}
+		wantNewBlocks(t, b, movesOf)
 	}
 }
