@@ -266,9 +266,9 @@ func TestNestedRowsOfAllNumbers(t *testing.T) {
 // TestOneSeamOfNestedRows changes one seam: it clashes with those above and below it, if there are any, and is the only one to be changed back.
 func TestOneSeamOfNestedRows(t *testing.T) {
 	eachShape(func(rows int, seams int) {
-		for place := range rows * seams {
-			k, seam := place/seams, place%seams
-			p := impl.NestedRows(rows, seams, place%2 == 0)
+		for place := range 2 * rows * seams {
+			k, seam, first := place/2/seams, place/2%seams, place%2 == 0
+			p := impl.NestedRows(rows, seams, first)
 			p[k][seam] = !p[k][seam]
 			clashes := 0
 			if k > 0 {
